@@ -9,6 +9,7 @@ import (
 
 	"creel/api"
 	"creel/crc"
+	"creel/trial"
 )
 
 // longhand is P2.1's Add by its words, without a table that is kept: each number of it is worked out where it is asked.
@@ -32,24 +33,12 @@ func entry(i uint32) uint32 {
 	return i
 }
 
-// mixed are n bytes that look like none in particular, the same each time.
-func mixed(n int) []byte {
-	b, x := make([]byte, n), uint32(2463534242)
-	for i := range b {
-		x ^= x << 13
-		x ^= x >> 17
-		x ^= x << 5
-		b[i] = byte(x >> 11)
-	}
-	return b
-}
-
 // texts are bytes of several kinds, none among them.
 func texts() [][]byte {
 	l := [][]byte{nil, {}, {0}, {1}, {128}, {255}, {0, 0}, {0, 0, 0, 0}, {255, 255, 255, 255}, {255, 255, 255, 255, 0},
 		[]byte("123456789"), []byte("creel"), []byte("a b\nb c\n"), bytes.Repeat([]byte{0}, 100), bytes.Repeat([]byte{255}, 100)}
 	for _, n := range []int{2, 3, 5, 8, 31, 32, 33, 255, 256, 257, 1000} {
-		l = append(l, mixed(n))
+		l = append(l, trial.Mixed(n))
 	}
 	return l
 }
@@ -103,7 +92,7 @@ func TestSum(t *testing.T) { // P2.1
 
 func TestSumOfManyBytes(t *testing.T) { // P2.1
 	known := crc32.MakeTable(crc32.Castagnoli)
-	l := append(texts(), mixed(api.MaxFrame), mixed(70000))
+	l := append(texts(), trial.Mixed(api.MaxFrame), trial.Mixed(70000))
 	for i := range 256 {
 		l = append(l, []byte{byte(i)}, []byte{7, byte(i)}, []byte{byte(i), 0, 255})
 	}
@@ -156,45 +145,18 @@ func TestAddGoesOn(t *testing.T) { // P2.2
 	}
 }
 
-// turned is b, of which the bits of pattern are turned, from the bit at on; of each byte the lowest bit is first. It is false, if one of them is behind b.
-func turned(b []byte, at int, pattern uint32) ([]byte, bool) {
-	out := bytes.Clone(b)
-	for i := range api.Burst {
-		if pattern>>i&1 == 0 {
-			continue
-		}
-		if (at+i)/8 >= len(out) {
-			return nil, false
-		}
-		out[(at+i)/8] ^= 1 << ((at + i) % 8)
-	}
-	return out, true
-}
-
-// patterns are bits within Burst side by side, the first of which is turned: of every length all, one, the ends, and some between.
+// patterns are bits within Burst side by side, and those that would not be noticed, were they not 33 (the constant's behind another one), without the last, and without the first.
 func patterns() []uint32 {
-	l := []uint32{1}
-	noise := mixed(4 * 32 * 40)
-	for size := 2; size <= api.Burst; size++ {
-		ends := uint32(1) | 1<<(size-1)
-		l = append(l, ends, uint32(1<<size-1))
-		for range 40 {
-			n := uint32(noise[0])<<24 | uint32(noise[1])<<16 | uint32(noise[2])<<8 | uint32(noise[3])
-			noise = noise[4:]
-			l = append(l, n>>(32-size)|ends)
-		}
-	}
-	// the bits that would not be noticed are 33, the constant's behind another one: these are they without the last, and without the first
-	return append(l, 2197175160<<1&math.MaxUint32|1, 2197175160>>3)
+	return append(trial.Patterns(40), 2197175160<<1&math.MaxUint32|1, 2197175160>>3)
 }
 
 func TestTurnedBitsAreNoticed(t *testing.T) { // P2.2
 	l := patterns()
-	for _, b := range [][]byte{{0}, {255}, mixed(2), mixed(4), mixed(5), make([]byte, 9), bytes.Repeat([]byte{255}, 9), []byte("123456789"), mixed(40)} {
+	for _, b := range [][]byte{{0}, {255}, trial.Mixed(2), trial.Mixed(4), trial.Mixed(5), make([]byte, 9), bytes.Repeat([]byte{255}, 9), []byte("123456789"), trial.Mixed(40)} {
 		sum := crc.Sum(b)
 		for at := range 8 * len(b) {
 			for _, pattern := range l {
-				if other, ok := turned(b, at, pattern); ok && crc.Sum(other) == sum {
+				if other, ok := trial.Turned(b, at, pattern); ok && crc.Sum(other) == sum {
 					t.Errorf("%v and %v have one Sum, %x", b, other, sum)
 				}
 			}
@@ -203,11 +165,11 @@ func TestTurnedBitsAreNoticed(t *testing.T) { // P2.2
 }
 
 func TestShortBurstsAreNoticed(t *testing.T) { // P2.2: all of them up to 12 bits, wherever
-	b := mixed(6)
+	b := trial.Mixed(6)
 	sum := crc.Sum(b)
 	for at := range 8 * len(b) {
 		for pattern := uint32(1); pattern < 1<<12; pattern += 2 {
-			if other, ok := turned(b, at, pattern); ok && crc.Sum(other) == sum {
+			if other, ok := trial.Turned(b, at, pattern); ok && crc.Sum(other) == sum {
 				t.Errorf("%v and %v have one Sum, %x", b, other, sum)
 			}
 		}
@@ -216,26 +178,18 @@ func TestShortBurstsAreNoticed(t *testing.T) { // P2.2: all of them up to 12 bit
 
 func TestAllBurstsAreNoticed(t *testing.T) { // P2.2: what a bit does to the Sum no others within Burst do together, so none undo each other
 	for at := range 8 {
-		b := mixed(5)
+		b := trial.Mixed(5)
 		sum := crc.Sum(b)
-		var led [32]uint32 // by their highest bit: what some of these bits do to the Sum together
+		var by []uint32 // what each of them does to the Sum
 		for i := range api.Burst {
-			other, ok := turned(b, at, 1<<i)
+			other, ok := trial.Turned(b, at+i, 1)
 			if !ok {
 				t.Fatalf("bit %d from %d on is none", i, at)
 			}
-			by := sum ^ crc.Sum(other)
-			for k := 31; k >= 0; k-- {
-				if by>>k&1 == 1 && led[k] != 0 {
-					by ^= led[k]
-				} else if by>>k&1 == 1 {
-					led[k] = by
-					break
-				}
-			}
-			if by == 0 {
-				t.Errorf("from bit %d on: some of the first %d, turned together, are not noticed", at, i+1)
-			}
+			by = append(by, sum^crc.Sum(other))
+		}
+		if i := trial.Undone(by); i >= 0 {
+			t.Errorf("from bit %d on: some of the first %d, turned together, are not noticed", at, i+1)
 		}
 	}
 }
