@@ -9,25 +9,8 @@ import (
 
 	"creel/api"
 	"creel/disk"
+	"creel/trial"
 )
-
-// done fails the test, if one of things that are done, one behind the other, did not tell OK.
-func done(t *testing.T, codes ...api.Errno) {
-	t.Helper()
-	for i, e := range codes {
-		if e != api.OK {
-			t.Fatalf("thing %d (from 0 on): error %d", i, e)
-		}
-	}
-}
-
-// tells fails the test, if a call told another number than the one that is wanted.
-func tells(t *testing.T, what string, got, want api.Errno) {
-	t.Helper()
-	if got != want {
-		t.Errorf("%s: error %d, want %d", what, got, want)
-	}
-}
 
 // holds fails the test, if a disk has other files than these: a name, then its bytes, and so on, by rising names.
 func holds(t *testing.T, what string, d *disk.Disk, want ...string) {
@@ -94,7 +77,7 @@ func faults() map[api.Errno][]func(d *disk.Disk) api.Errno {
 func one(t *testing.T, room int) *disk.Disk {
 	t.Helper()
 	d := disk.New(room)
-	done(t, d.Create("a"), d.Append("a", []byte("12")), d.Sync("a"), d.SyncNames(), d.Append("a", []byte("3")))
+	trial.Done(t, d.Create("a"), d.Append("a", []byte("12")), d.Sync("a"), d.SyncNames(), d.Append("a", []byte("3")))
 	return d
 }
 
@@ -134,25 +117,25 @@ func TestNamesAreOfSoManyBytes(t *testing.T) { // P4.1
 	wide := strings.Repeat("é", api.MaxName/2) // bytes are told, not letters
 	for _, name := range []string{"x", " ", "\x00", "\xff\xfe", "a/b", ".", most, wide} {
 		d := disk.New(9)
-		done(t, d.Create(name))
-		tells(t, "a name that is there", d.Create(name), api.ErrThere)
-		done(t, d.Append(name, []byte("1")), d.Rename(name, "to"), d.Rename("to", name), d.Sync(name), d.SyncNames())
+		trial.Done(t, d.Create(name))
+		trial.Tells(t, "a name that is there", d.Create(name), api.ErrThere)
+		trial.Done(t, d.Append(name, []byte("1")), d.Rename(name, "to"), d.Rename("to", name), d.Sync(name), d.SyncNames())
 		holds(t, "one name", d, name, "1")
-		done(t, d.Remove(name))
+		trial.Done(t, d.Remove(name))
 		holds(t, "none", d)
 	}
 	for _, name := range []string{"", most + "n", wide + "n", strings.Repeat("é", api.MaxName/2+1)} {
 		d := one(t, 9)
-		tells(t, "create of no name", d.Create(name), api.ErrArg)
-		tells(t, "rename to no name", d.Rename("a", name), api.ErrArg)
-		tells(t, "rename from no name", d.Rename(name, "b"), api.ErrNone)
+		trial.Tells(t, "create of no name", d.Create(name), api.ErrArg)
+		trial.Tells(t, "rename to no name", d.Rename("a", name), api.ErrArg)
+		trial.Tells(t, "rename from no name", d.Rename(name, "b"), api.ErrNone)
 	}
 }
 
 func TestNamesRise(t *testing.T) { // P4.1
 	d := disk.New(9)
 	for _, name := range []string{"b", "ab", "a", "é", "\xff", "B", "aa", "\x00", "a\x00"} {
-		done(t, d.Create(name))
+		trial.Done(t, d.Create(name))
 	}
 	want := []string{"\x00", "B", "a", "a\x00", "aa", "ab", "b", "é", "\xff"}
 	l, e := d.Names()
@@ -170,10 +153,10 @@ func TestNamesRise(t *testing.T) { // P4.1
 
 func TestAppendAndRead(t *testing.T) { // P4.1
 	d := disk.New(20)
-	done(t, d.Create("a"), d.Create("b"))
+	trial.Done(t, d.Create("a"), d.Create("b"))
 	holds(t, "no bytes", d, "a", "", "b", "")
 	b := []byte("12345")
-	done(t, d.Append("a", b[:3]), d.Append("b", b), d.Append("a", nil), d.Append("a", b[3:]))
+	trial.Done(t, d.Append("a", b[:3]), d.Append("b", b), d.Append("a", nil), d.Append("a", b[3:]))
 	if string(b) != "12345" {
 		t.Errorf("what was handed in is %q", b)
 	}
@@ -186,9 +169,9 @@ func TestAppendAndRead(t *testing.T) { // P4.1
 	clear(r)
 	_ = append(r, 9)
 	holds(t, "what was told is the caller's", d, "a", "12345", "b", "12345")
-	done(t, d.Append("a", []byte("6")))
+	trial.Done(t, d.Append("a", []byte("6")))
 	r, _ = d.Read("a")
-	done(t, d.Append("a", []byte("7")))
+	trial.Done(t, d.Append("a", []byte("7")))
 	if string(r) != "123456" {
 		t.Errorf("what was told is %q behind an append", r)
 	}
@@ -197,7 +180,7 @@ func TestAppendAndRead(t *testing.T) { // P4.1
 func TestAppendBesideRoom(t *testing.T) { // P4.1, rule 4: the room behind a list's length stays
 	list := []byte("12345")
 	d := disk.New(20)
-	done(t, d.Create("a"), d.Append("a", list[:2]), d.Append("a", []byte("x")))
+	trial.Done(t, d.Create("a"), d.Append("a", list[:2]), d.Append("a", []byte("x")))
 	holds(t, "two bytes of five", d, "a", "12x")
 	if string(list) != "12345" {
 		t.Errorf("%q", list)
@@ -207,61 +190,61 @@ func TestAppendBesideRoom(t *testing.T) { // P4.1, rule 4: the room behind a lis
 func TestFull(t *testing.T) { // P4.1, P4.2
 	for _, room := range []int{math.MinInt, -1, 0, 1, 5, math.MaxInt} {
 		d := disk.New(room)
-		done(t, d.Create("a"), d.Append("a", nil))
+		trial.Done(t, d.Create("a"), d.Append("a", nil))
 		for i := range 7 {
 			want := api.OK
 			if i >= room {
 				want = api.ErrFull
 			}
-			tells(t, "a byte more", d.Append("a", []byte{1}), want)
+			trial.Tells(t, "a byte more", d.Append("a", []byte{1}), want)
 			if d.Used() != min(i+1, max(room, 0)) {
 				t.Errorf("room %d: %d used behind %d", room, d.Used(), i+1)
 			}
 		}
 	}
 	d := disk.New(9)
-	done(t, d.Create("a"), d.Create("b"), d.Append("a", make([]byte, 4)), d.Append("b", make([]byte, 4)))
-	tells(t, "two more", d.Append("a", make([]byte, 2)), api.ErrFull)
-	done(t, d.Append("b", make([]byte, 1)))
-	tells(t, "one more", d.Append("a", make([]byte, 1)), api.ErrFull)
+	trial.Done(t, d.Create("a"), d.Create("b"), d.Append("a", make([]byte, 4)), d.Append("b", make([]byte, 4)))
+	trial.Tells(t, "two more", d.Append("a", make([]byte, 2)), api.ErrFull)
+	trial.Done(t, d.Append("b", make([]byte, 1)))
+	trial.Tells(t, "one more", d.Append("a", make([]byte, 1)), api.ErrFull)
 }
 
 func TestGrow(t *testing.T) { // P4.2
 	d := one(t, 3)
-	tells(t, "below 0", d.Grow(-1), api.ErrArg)
-	tells(t, "far below 0", d.Grow(math.MinInt), api.ErrArg)
-	tells(t, "room as ahead", d.Append("a", []byte("4")), api.ErrFull)
-	done(t, d.Grow(4), d.Append("a", []byte("4")), d.Grow(0))
-	tells(t, "less room than there is used", d.Append("a", nil), api.ErrFull)
+	trial.Tells(t, "below 0", d.Grow(-1), api.ErrArg)
+	trial.Tells(t, "far below 0", d.Grow(math.MinInt), api.ErrArg)
+	trial.Tells(t, "room as ahead", d.Append("a", []byte("4")), api.ErrFull)
+	trial.Done(t, d.Grow(4), d.Append("a", []byte("4")), d.Grow(0))
+	trial.Tells(t, "less room than there is used", d.Append("a", nil), api.ErrFull)
 	holds(t, "less room than there is used", d, "a", "1234")
-	done(t, d.Sync("a"), d.Create("b"), d.Rename("b", "c"), d.SyncNames(), d.Grow(4), d.Append("c", nil))
+	trial.Done(t, d.Sync("a"), d.Create("b"), d.Rename("b", "c"), d.SyncNames(), d.Grow(4), d.Append("c", nil))
 	d.Doom(0)
-	tells(t, "down", d.Sync("a"), api.ErrDown)
-	done(t, d.Grow(5), d.Crash(api.Wreck{}))
-	done(t, d.Append("c", []byte("5")))
-	tells(t, "full", d.Append("c", []byte("6")), api.ErrFull)
+	trial.Tells(t, "down", d.Sync("a"), api.ErrDown)
+	trial.Done(t, d.Grow(5), d.Crash(api.Wreck{}))
+	trial.Done(t, d.Append("c", []byte("5")))
+	trial.Tells(t, "full", d.Append("c", []byte("6")), api.ErrFull)
 }
 
 func TestRename(t *testing.T) { // P4.1
 	d := one(t, 9)
-	done(t, d.Create("b"), d.Append("b", []byte("xy")), d.Rename("b", "c"))
+	trial.Done(t, d.Create("b"), d.Append("b", []byte("xy")), d.Rename("b", "c"))
 	holds(t, "a new name", d, "a", "123", "c", "xy")
-	tells(t, "from a name that is no more", d.Rename("b", "c"), api.ErrNone)
-	done(t, d.Rename("c", "a"))
+	trial.Tells(t, "from a name that is no more", d.Rename("b", "c"), api.ErrNone)
+	trial.Done(t, d.Rename("c", "a"))
 	holds(t, "a name that another had", d, "a", "xy")
-	done(t, d.Rename("a", "a"))
+	trial.Done(t, d.Rename("a", "a"))
 	holds(t, "its own name", d, "a", "xy")
-	done(t, d.Create("c"), d.Rename("a", "b"), d.Append("b", []byte("z")), d.Create("a"))
+	trial.Done(t, d.Create("c"), d.Rename("a", "b"), d.Append("b", []byte("z")), d.Create("a"))
 	holds(t, "names that are free again", d, "a", "", "b", "xyz", "c", "")
 }
 
 func TestRemove(t *testing.T) { // P4.1
 	d := one(t, 9)
-	done(t, d.Remove("a"))
+	trial.Done(t, d.Remove("a"))
 	holds(t, "none", d)
-	tells(t, "remove", d.Remove("a"), api.ErrNone)
-	tells(t, "append", d.Append("a", nil), api.ErrNone)
-	done(t, d.Create("a"))
+	trial.Tells(t, "remove", d.Remove("a"), api.ErrNone)
+	trial.Tells(t, "append", d.Append("a", nil), api.ErrNone)
+	trial.Done(t, d.Create("a"))
 	holds(t, "another of that name", d, "a", "")
 }
 
@@ -274,29 +257,29 @@ func TestUsed(t *testing.T) { // P4.2: of a file that has a name, or a kept one,
 		}
 	}
 	at("a new one", 0)
-	done(t, d.Create("a"), d.Append("a", make([]byte, 7)))
+	trial.Done(t, d.Create("a"), d.Append("a", make([]byte, 7)))
 	at("a name", 7)
-	done(t, d.Remove("a"))
+	trial.Done(t, d.Remove("a"))
 	at("a name behind a change", 7)
-	done(t, d.SyncNames())
+	trial.Done(t, d.SyncNames())
 	at("no name", 0)
-	done(t, d.Create("a"), d.Append("a", make([]byte, 7)), d.SyncNames(), d.Append("a", make([]byte, 1)))
+	trial.Done(t, d.Create("a"), d.Append("a", make([]byte, 7)), d.SyncNames(), d.Append("a", make([]byte, 1)))
 	at("a name and a kept name", 8)
-	done(t, d.Rename("a", "b"), d.Rename("b", "b"))
+	trial.Done(t, d.Rename("a", "b"), d.Rename("b", "b"))
 	at("names behind changes", 8)
-	done(t, d.Create("a"), d.Append("a", make([]byte, 20)), d.Rename("a", "b"))
+	trial.Done(t, d.Create("a"), d.Append("a", make([]byte, 20)), d.Rename("a", "b"))
 	at("a kept name, and a name", 28)
-	done(t, d.Create("c"), d.Append("c", make([]byte, 30)), d.Rename("c", "b"))
+	trial.Done(t, d.Create("c"), d.Append("c", make([]byte, 30)), d.Rename("c", "b"))
 	at("a kept name, a name behind a change, and a name", 58)
 	c := d.Clone()
-	done(t, d.SyncNames())
+	trial.Done(t, d.SyncNames())
 	at("one that is left", 30)
 	d = c
 	at("a clone", 58)
 	d.Doom(0)
-	tells(t, "down", d.SyncNames(), api.ErrDown)
+	trial.Tells(t, "down", d.SyncNames(), api.ErrDown)
 	at("down", 58)
-	done(t, d.Crash(api.Wreck{Names: 3, Bytes: []int{5, 2}})) // a to b, b to b, a again
+	trial.Done(t, d.Crash(api.Wreck{Names: 3, Bytes: []int{5, 2}})) // a to b, b to b, a again
 	holds(t, "crash", d, "a", "\x00\x00\x00\x00\x00", "b", "\x00\x00")
 	at("crash", 7)
 }
@@ -305,26 +288,26 @@ func TestDoom(t *testing.T) { // P4.1, P4.2
 	for name, thing := range things() {
 		for n := range 4 {
 			d := one(t, 9)
-			done(t, d.Doom(n))
+			trial.Done(t, d.Doom(n))
 			for range n {
-				done(t, d.Sync("a"))
+				trial.Done(t, d.Sync("a"))
 			}
 			d.Used()
-			done(t, d.Grow(8))
+			trial.Done(t, d.Grow(8))
 			for range 3 {
 				if e := thing(d); e != api.ErrDown {
 					t.Errorf("%s behind %d: error %d", name, n, e)
 				}
 			}
-			done(t, d.Doom(5), d.Grow(9))
-			tells(t, name+" of one that is down", thing(d), api.ErrDown)
-			tells(t, name+" of a clone of one that is down", thing(d.Clone()), api.ErrDown)
-			done(t, d.Crash(api.Wreck{Names: 9, Bytes: []int{9}}))
+			trial.Done(t, d.Doom(5), d.Grow(9))
+			trial.Tells(t, name+" of one that is down", thing(d), api.ErrDown)
+			trial.Tells(t, name+" of a clone of one that is down", thing(d.Clone()), api.ErrDown)
+			trial.Done(t, d.Crash(api.Wreck{Names: 9, Bytes: []int{9}}))
 			holds(t, name+" was not done", d, "a", "123")
 			for range 7 { // neither down nor doomed
-				done(t, d.Sync("a"))
+				trial.Done(t, d.Sync("a"))
 			}
-			done(t, thing(d))
+			trial.Done(t, thing(d))
 		}
 	}
 }
@@ -332,21 +315,21 @@ func TestDoom(t *testing.T) { // P4.1, P4.2
 func TestDoomCountsThings(t *testing.T) { // P4.1: each thing is one less, whatever it tells
 	left := func(what string, d *disk.Disk) {
 		t.Helper()
-		tells(t, what+": the one that is left", d.Sync("a"), api.OK)
-		tells(t, what+": the next one", d.Sync("a"), api.ErrDown)
+		trial.Tells(t, what+": the one that is left", d.Sync("a"), api.OK)
+		trial.Tells(t, what+": the next one", d.Sync("a"), api.ErrDown)
 	}
 	for name, thing := range things() {
 		if name == "rename" || name == "remove" { // then there is no a to sync
 			continue
 		}
 		d := one(t, 9)
-		done(t, d.Doom(2), thing(d))
+		trial.Done(t, d.Doom(2), thing(d))
 		left(name, d)
 	}
 	for want, l := range faults() {
 		for i, f := range l {
 			d := one(t, 3)
-			done(t, d.Doom(2))
+			trial.Done(t, d.Doom(2))
 			if e := f(d); e != want {
 				t.Errorf("%d of those of error %d: error %d", i, want, e)
 			}
@@ -354,27 +337,27 @@ func TestDoomCountsThings(t *testing.T) { // P4.1: each thing is one less, whate
 		}
 	}
 	d := one(t, 9)
-	done(t, d.Doom(2), d.Rename("a", "b"), d.Remove("b"))
+	trial.Done(t, d.Doom(2), d.Rename("a", "b"), d.Remove("b"))
 	_, e := d.Names()
-	tells(t, "behind rename and remove", e, api.ErrDown)
+	trial.Tells(t, "behind rename and remove", e, api.ErrDown)
 }
 
 func TestDoomAgain(t *testing.T) { // P4.2
 	d := one(t, 9)
-	done(t, d.Doom(9), d.Sync("a"), d.Doom(1), d.Sync("a"))
-	tells(t, "below 0", d.Doom(-1), api.ErrArg)
-	tells(t, "far below 0", d.Doom(math.MinInt), api.ErrArg)
-	done(t, d.Doom(1), d.Sync("a"))
-	tells(t, "doomed to none", d.Sync("a"), api.ErrDown)
+	trial.Done(t, d.Doom(9), d.Sync("a"), d.Doom(1), d.Sync("a"))
+	trial.Tells(t, "below 0", d.Doom(-1), api.ErrArg)
+	trial.Tells(t, "far below 0", d.Doom(math.MinInt), api.ErrArg)
+	trial.Done(t, d.Doom(1), d.Sync("a"))
+	trial.Tells(t, "doomed to none", d.Sync("a"), api.ErrDown)
 	d = one(t, 9)
-	done(t, d.Doom(math.MaxInt), d.Sync("a"), d.Doom(0))
-	tells(t, "below 0", d.Doom(-1), api.ErrArg)
-	done(t, d.Crash(api.Wreck{}), d.Sync("a"))
+	trial.Done(t, d.Doom(math.MaxInt), d.Sync("a"), d.Doom(0))
+	trial.Tells(t, "below 0", d.Doom(-1), api.ErrArg)
+	trial.Done(t, d.Crash(api.Wreck{}), d.Sync("a"))
 }
 
 func TestCrashLeavesNames(t *testing.T) { // P4.2
 	made := one(t, 99)
-	done(t, made.Create("b"), made.Append("b", []byte("45")), made.Sync("b"), made.Rename("b", "c"), made.Rename("c", "c"), made.Remove("a"), made.Create("a"), made.Rename("c", "a"))
+	trial.Done(t, made.Create("b"), made.Append("b", []byte("45")), made.Sync("b"), made.Rename("b", "c"), made.Rename("c", "c"), made.Remove("a"), made.Create("a"), made.Rename("c", "a"))
 	for n, want := range [][]string{
 		{"a", "12"},
 		{"a", "12", "b", "45"},
@@ -385,31 +368,31 @@ func TestCrashLeavesNames(t *testing.T) { // P4.2
 		{"a", "45"},
 	} {
 		d := made.Clone()
-		done(t, d.Crash(api.Wreck{Names: n}))
+		trial.Done(t, d.Crash(api.Wreck{Names: n}))
 		holds(t, "names", d, want...)
-		done(t, d.Crash(api.Wreck{Names: 9})) // no change is left
+		trial.Done(t, d.Crash(api.Wreck{Names: 9})) // no change is left
 		holds(t, "names behind another crash", d, want...)
 	}
 	for _, n := range []int{-1, math.MinInt} {
 		d := made.Clone()
-		done(t, d.Crash(api.Wreck{Names: n}))
+		trial.Done(t, d.Crash(api.Wreck{Names: n}))
 		holds(t, "no change", d, "a", "12")
 	}
 	for _, n := range []int{7, math.MaxInt} {
 		d := made.Clone()
-		done(t, d.Crash(api.Wreck{Names: n}))
+		trial.Done(t, d.Crash(api.Wreck{Names: n}))
 		holds(t, "all changes", d, "a", "45")
 	}
-	done(t, made.SyncNames(), made.Crash(api.Wreck{}))
+	trial.Done(t, made.SyncNames(), made.Crash(api.Wreck{}))
 	holds(t, "kept names", made, "a", "45")
 }
 
 func TestCrashLeavesBytes(t *testing.T) { // P4.2
 	made := disk.New(99)
 	for _, name := range []string{"d", "b", "a", "c"} {
-		done(t, made.Create(name), made.Append(name, []byte(name+"1")), made.Sync(name), made.Append(name, []byte("234")))
+		trial.Done(t, made.Create(name), made.Append(name, []byte(name+"1")), made.Sync(name), made.Append(name, []byte("234")))
 	}
-	done(t, made.SyncNames())
+	trial.Done(t, made.SyncNames())
 	for _, c := range []struct {
 		left []int
 		want string // how many bytes behind the kept ones each file has, by rising names
@@ -423,46 +406,46 @@ func TestCrashLeavesBytes(t *testing.T) { // P4.2
 		}
 		handed := slices.Clone(c.left)
 		d := made.Clone()
-		done(t, d.Crash(api.Wreck{Bytes: handed}))
+		trial.Done(t, d.Crash(api.Wreck{Bytes: handed}))
 		holds(t, "bytes", d, want...)
 		if !slices.Equal(handed, c.left) {
 			t.Errorf("what was handed in is %v, was %v", handed, c.left)
 		}
-		done(t, d.Crash(api.Wreck{})) // all bytes are kept
+		trial.Done(t, d.Crash(api.Wreck{})) // all bytes are kept
 		holds(t, "bytes behind another crash", d, want...)
-		done(t, d.Append("a", []byte("xyz")))
+		trial.Done(t, d.Append("a", []byte("xyz")))
 		holds(t, "bytes behind those that are left", d, append([]string{"a", want[1] + "xyz"}, want[2:]...)...)
 	}
-	done(t, made.Remove("b"), made.SyncNames(), made.Crash(api.Wreck{Bytes: []int{0, 1, 2}})) // by the names that there are
+	trial.Done(t, made.Remove("b"), made.SyncNames(), made.Crash(api.Wreck{Bytes: []int{0, 1, 2}})) // by the names that there are
 	holds(t, "bytes", made, "a", "a1", "c", "c12", "d", "d123")
 }
 
 func TestCrashOfExamples(t *testing.T) { // the chapter's examples
 	d := disk.New(9)
-	done(t, d.Create("a"), d.Append("a", make([]byte, 5)), d.Crash(api.Wreck{}))
+	trial.Done(t, d.Create("a"), d.Append("a", make([]byte, 5)), d.Crash(api.Wreck{}))
 	holds(t, "no names", d)
-	done(t, d.Create("a"), d.SyncNames(), d.Append("a", []byte("12345")), d.Crash(api.Wreck{Bytes: []int{2}}))
+	trial.Done(t, d.Create("a"), d.SyncNames(), d.Append("a", []byte("12345")), d.Crash(api.Wreck{Bytes: []int{2}}))
 	holds(t, "two bytes", d, "a", "12")
-	tells(t, "eight more", d.Append("a", make([]byte, 8)), api.ErrFull)
+	trial.Tells(t, "eight more", d.Append("a", make([]byte, 8)), api.ErrFull)
 }
 
 func TestClone(t *testing.T) { // P4.2
 	state := func() *disk.Disk {
 		d := one(t, 12)
-		done(t, d.Create("b"), d.Append("b", []byte("45")), d.Rename("a", "c"), d.Doom(90))
+		trial.Done(t, d.Create("b"), d.Append("b", []byte("45")), d.Rename("a", "c"), d.Doom(90))
 		return d
 	}
 	changed := func(d *disk.Disk) {
-		done(t, d.Append("c", []byte("x")), d.Append("b", []byte("yz")), d.Sync("b"), d.Create("d"), d.Append("d", []byte("w")), d.Rename("b", "e"), d.SyncNames(), d.Remove("c"))
-		done(t, d.Grow(1), d.Doom(0))
-		tells(t, "down", d.SyncNames(), api.ErrDown)
+		trial.Done(t, d.Append("c", []byte("x")), d.Append("b", []byte("yz")), d.Sync("b"), d.Create("d"), d.Append("d", []byte("w")), d.Rename("b", "e"), d.SyncNames(), d.Remove("c"))
+		trial.Done(t, d.Grow(1), d.Doom(0))
+		trial.Tells(t, "down", d.SyncNames(), api.ErrDown)
 	}
 	same := func(what string, d *disk.Disk) {
 		t.Helper()
 		holds(t, what, d, "b", "45", "c", "123")
-		done(t, d.Append("c", make([]byte, 7)))
-		tells(t, what+": room", d.Append("c", make([]byte, 1)), api.ErrFull)
-		done(t, d.Crash(api.Wreck{Names: 1, Bytes: []int{1, 1}}))
+		trial.Done(t, d.Append("c", make([]byte, 7)))
+		trial.Tells(t, what+": room", d.Append("c", make([]byte, 1)), api.ErrFull)
+		trial.Done(t, d.Crash(api.Wreck{Names: 1, Bytes: []int{1, 1}}))
 		holds(t, what+": crash", d, "a", "123", "b", "4")
 	}
 	for _, turn := range []bool{false, true} {
@@ -473,27 +456,27 @@ func TestClone(t *testing.T) { // P4.2
 		}
 		changed(d)
 		same("the other one", c)
-		done(t, d.Crash(api.Wreck{Bytes: []int{9}}))
+		trial.Done(t, d.Crash(api.Wreck{Bytes: []int{9}}))
 		holds(t, "this one", d, "c", "123x", "d", "w", "e", "45yz")
 	}
 	d := one(t, 9)
-	done(t, d.Doom(1))
+	trial.Done(t, d.Doom(1))
 	c := d.Clone()
 	for _, x := range []*disk.Disk{c, d} { // each is doomed by itself
-		done(t, x.Sync("a"))
-		tells(t, "doomed", x.Sync("a"), api.ErrDown)
+		trial.Done(t, x.Sync("a"))
+		trial.Tells(t, "doomed", x.Sync("a"), api.ErrDown)
 	}
-	done(t, c.Crash(api.Wreck{}), c.Sync("a"))
-	tells(t, "the other one is down still", d.Sync("a"), api.ErrDown)
+	trial.Done(t, c.Crash(api.Wreck{}), c.Sync("a"))
+	trial.Tells(t, "the other one is down still", d.Sync("a"), api.ErrDown)
 }
 
 func TestKept(t *testing.T) { // P4.3
 	for _, n := range []int{math.MinInt, -1, 0, 1, 2, 3, 4, 5, 6, 9, math.MaxInt} {
 		for _, left := range [][]int{nil, {0}, {-1}, {1}, {2, 1}, {math.MaxInt}} {
 			d := disk.New(99)
-			done(t, d.Create("a"), d.Append("a", []byte("12")), d.Sync("a"), d.Create("b"), d.Append("b", []byte("34")), d.Sync("b"), d.SyncNames())
-			done(t, d.Append("a", []byte("56")), d.Create("c"), d.Append("c", []byte("7")), d.Remove("b"), d.Rename("c", "b"), d.Create("d"), d.Remove("d"))
-			done(t, d.Crash(api.Wreck{Names: n, Bytes: left}))
+			trial.Done(t, d.Create("a"), d.Append("a", []byte("12")), d.Sync("a"), d.Create("b"), d.Append("b", []byte("34")), d.Sync("b"), d.SyncNames())
+			trial.Done(t, d.Append("a", []byte("56")), d.Create("c"), d.Append("c", []byte("7")), d.Remove("b"), d.Rename("c", "b"), d.Create("d"), d.Remove("d"))
+			trial.Done(t, d.Crash(api.Wreck{Names: n, Bytes: left}))
 			b, e := d.Read("a")
 			if e != api.OK || !bytes.HasPrefix([]byte("1256"), b) || len(b) < 2 {
 				t.Errorf("%d changes, bytes %v: a is %q, error %d", n, left, b, e)
@@ -505,7 +488,7 @@ func TestKept(t *testing.T) { // P4.3
 func TestNilDisk(t *testing.T) { // P4.2
 	var d *disk.Disk
 	for name, thing := range things() {
-		tells(t, name, thing(d), api.ErrNone)
+		trial.Tells(t, name, thing(d), api.ErrNone)
 	}
 	if b, e := d.Read("a"); len(b) != 0 || e != api.ErrNone {
 		t.Error(b, e)
@@ -513,11 +496,11 @@ func TestNilDisk(t *testing.T) { // P4.2
 	if l, e := d.Names(); len(l) != 0 || e != api.ErrNone {
 		t.Error(l, e)
 	}
-	tells(t, "create of no name", d.Create(""), api.ErrNone)
+	trial.Tells(t, "create of no name", d.Create(""), api.ErrNone)
 	for _, n := range []int{-1, 0, 1} {
-		tells(t, "doom", d.Doom(n), api.ErrNone)
-		tells(t, "grow", d.Grow(n), api.ErrNone)
-		tells(t, "crash", d.Crash(api.Wreck{Names: n, Bytes: []int{n}}), api.ErrNone)
+		trial.Tells(t, "doom", d.Doom(n), api.ErrNone)
+		trial.Tells(t, "grow", d.Grow(n), api.ErrNone)
+		trial.Tells(t, "crash", d.Crash(api.Wreck{Names: n, Bytes: []int{n}}), api.ErrNone)
 	}
 	if d.Used() != 0 || d.Clone() != nil {
 		t.Error(d.Used(), d.Clone())
@@ -527,18 +510,18 @@ func TestNilDisk(t *testing.T) { // P4.2
 func TestDiskOfNoNew(t *testing.T) { // rule 1: none panics
 	made := func() []*disk.Disk {
 		a, b := &disk.Disk{}, &disk.Disk{}
-		done(t, b.Crash(api.Wreck{Names: 1, Bytes: []int{1}}))
+		trial.Done(t, b.Crash(api.Wreck{Names: 1, Bytes: []int{1}}))
 		return []*disk.Disk{a, b, a.Clone(), b.Clone()}
 	}
 	for _, d := range made() {
 		holds(t, "none", d)
-		done(t, d.SyncNames(), d.Create("a"), d.Append("a", nil), d.SyncNames())
-		tells(t, "no room", d.Append("a", []byte("1")), api.ErrFull)
+		trial.Done(t, d.SyncNames(), d.Create("a"), d.Append("a", nil), d.SyncNames())
+		trial.Tells(t, "no room", d.Append("a", []byte("1")), api.ErrFull)
 		holds(t, "one", d, "a", "")
 	}
 	for _, d := range made() {
-		tells(t, "none to remove", d.Remove("a"), api.ErrNone)
-		done(t, d.Create("a"), d.Crash(api.Wreck{Names: 1}))
+		trial.Tells(t, "none to remove", d.Remove("a"), api.ErrNone)
+		trial.Done(t, d.Create("a"), d.Crash(api.Wreck{Names: 1}))
 		holds(t, "one", d, "a", "")
 	}
 }

@@ -3,9 +3,11 @@ package trial_test
 import (
 	"bytes"
 	"math/bits"
+	"slices"
 	"testing"
 
 	"creel/api"
+	"creel/disk"
 	"creel/trial"
 )
 
@@ -74,5 +76,43 @@ func TestUndone(t *testing.T) {
 		if got := trial.Undone(x.l); got != x.want {
 			t.Errorf("Undone of %v: %d, want %d", x.l, got, x.want)
 		}
+	}
+}
+
+// told counts what a test is told.
+type told struct{ wrong, ends int }
+
+func (t *told) Helper()               {}
+func (t *told) Errorf(string, ...any) { t.wrong++ }
+func (t *told) Fatalf(string, ...any) { t.ends++ }
+
+func TestDoneAndTells(t *testing.T) {
+	var x told
+	trial.Done(&x)
+	trial.Done(&x, api.OK, api.OK)
+	trial.Tells(&x, "the same", api.ErrDown, api.ErrDown)
+	if x != (told{}) {
+		t.Errorf("%v of what is as it is wanted", x)
+	}
+	trial.Done(&x, api.OK, api.ErrNone)
+	trial.Tells(&x, "another", api.OK, api.ErrDown)
+	if x != (told{1, 1}) {
+		t.Errorf("%v of what is not", x)
+	}
+}
+
+func TestFiles(t *testing.T) {
+	d := disk.New(9)
+	if l := trial.Files(d); len(l) != 0 {
+		t.Errorf("%q of none", l)
+	}
+	trial.Done(t, d.Create("b"), d.Append("b", []byte("12")), d.Create("a"), d.Doom(3))
+	if l := trial.Files(d); !slices.Equal(l, []string{"a", "", "b", "12"}) {
+		t.Errorf("%q", l)
+	}
+	trial.Done(t, d.Sync("a"), d.Sync("a"), d.Sync("a")) // nothing was done on it in between
+	trial.Tells(t, "one more", d.Sync("a"), api.ErrDown)
+	if l := trial.Files(d); len(l) != 0 {
+		t.Errorf("%q of one that is down", l)
 	}
 }
