@@ -1,7 +1,6 @@
 package place_test
 
 import (
-	"math"
 	"slices"
 	"strings"
 	"testing"
@@ -59,65 +58,17 @@ func laid(t *testing.T, room int) *disk.Disk {
 	return d
 }
 
-// crashes are what may be left of a disk.
-func crashes() []api.Wreck {
-	var l []api.Wreck
-	for _, n := range []int{0, 1, 2, 3, 4, math.MaxInt} {
-		for _, left := range [][]int{nil, {1}, {0, 2}, {math.MaxInt}} {
-			l = append(l, api.Wreck{Names: n, Bytes: left})
-		}
-	}
-	return l
-}
-
-// behindCrash is all files of a disk behind a crash.
-func behindCrash(d *disk.Disk, w api.Wreck) []string {
-	c := d.Clone()
-	c.Crash(w)
-	return trial.Files(c)
-}
-
-// same fails the test, if two disks are not the same, as they are, or behind a crash.
-func same(t *testing.T, what string, got, want *disk.Disk) {
-	t.Helper()
-	if got.Used() != want.Used() {
-		t.Errorf("%s: %d used, want %d", what, got.Used(), want.Used())
-	}
-	if g, w := trial.Files(got), trial.Files(want); !slices.Equal(g, w) {
-		t.Errorf("%s: %q, want %q", what, g, w)
-	}
-	for _, w := range crashes() {
-		if g, x := behindCrash(got, w), behindCrash(want, w); !slices.Equal(g, x) {
-			t.Errorf("%s, crash %v: %q, want %q", what, w, g, x)
-		}
-	}
-}
-
 // check fails the test, if a call does other things than are told, or more, or in another order, or tells something else, wherever the disk goes down.
 func (a asked) check(t *testing.T, start *disk.Disk) {
 	t.Helper()
-	got, want := start.Clone(), start.Clone()
-	for _, do := range a.does {
-		do(want)
-	}
-	trial.Tells(t, a.what, a.call(got), a.want)
-	same(t, a.what, got, want)
-	for n := range len(a.does) + 1 {
-		got, want := start.Clone(), start.Clone()
-		trial.Done(t, got.Doom(n))
-		code := api.ErrDown
-		if n == len(a.does) {
-			code = a.want
+	trial.Alike(t, a.what, start, a.call, func(d *disk.Disk) api.Errno {
+		for _, do := range a.does {
+			if do(d) == api.ErrDown {
+				return api.ErrDown
+			}
 		}
-		trial.Tells(t, a.what+" of a doomed disk", a.call(got), code)
-		trial.Tells(t, a.what+": one more thing", got.SyncNames(), api.ErrDown)
-		for _, do := range a.does[:n] {
-			do(want)
-		}
-		trial.Done(t, want.Doom(0))
-		trial.Tells(t, "one more thing", want.SyncNames(), api.ErrDown)
-		same(t, a.what+" of a doomed disk", got, want)
-	}
+		return a.want
+	})
 }
 
 func TestPutOnDiskWithoutNames(t *testing.T) { // P5.1, the chapter's example
@@ -233,23 +184,6 @@ func TestDiskOfNoNew(t *testing.T) { // rule 1: none panics
 	trial.Tells(t, "drop", place.Drop(&disk.Disk{}, []string{"x"}), api.OK)
 }
 
-// whenever calls what is asked of a disk that goes down behind each number of things, and tells what is there behind each crash then.
-func whenever(t *testing.T, a asked, start *disk.Disk, told func(code api.Errno, files []string)) {
-	t.Helper()
-	for n := range 20 {
-		d := start.Clone()
-		trial.Done(t, d.Doom(n))
-		code := a.call(d)
-		for _, w := range crashes() {
-			told(code, behindCrash(d, w))
-		}
-		if code == api.OK {
-			return
-		}
-	}
-	t.Errorf("%s never ends", a.what)
-}
-
 // one is a file's bytes; false, if it is not there.
 func one(files []string, name string) (string, bool) {
 	for i := 0; i < len(files); i += 2 {
@@ -267,7 +201,8 @@ func TestCrashInPut(t *testing.T) { // P5.3
 	for _, start := range []*disk.Disk{disk.New(999), old} {
 		was, had := one(trial.Files(start), "x")
 		other, more := one(trial.Files(start), "a")
-		whenever(t, put("x", []byte(is), api.OK), start, func(code api.Errno, l []string) {
+		trial.Whenever(t, start, put("x", []byte(is), api.OK).call, func(code api.Errno, d *disk.Disk) {
+			l := trial.Files(d)
 			x, has := one(l, "x")
 			if whole := has && x == is; !whole && (code == api.OK || x != was || has != had) {
 				t.Errorf("error %d, then %q, %v", code, x, has)
@@ -285,8 +220,8 @@ func TestCrashInGrow(t *testing.T) { // P5.3
 	trial.Done(t, place.Put(old, "a", []byte("other")), place.Grow(old, "x", []byte("o")), place.Grow(old, "x", []byte("ld")))
 	for _, start := range []*disk.Disk{disk.New(999), old} {
 		was, had := one(trial.Files(start), "x")
-		whenever(t, grow("x", []byte(behind), api.OK), start, func(code api.Errno, l []string) {
-			x, has := one(l, "x")
+		trial.Whenever(t, start, grow("x", []byte(behind), api.OK).call, func(code api.Errno, d *disk.Disk) {
+			x, has := one(trial.Files(d), "x")
 			if had && !has || !strings.HasPrefix(x, was) || !strings.HasPrefix(behind, x[len(was):]) || code == api.OK && x != was+behind {
 				t.Errorf("error %d, then %q, %v", code, x, has)
 			}
@@ -296,7 +231,8 @@ func TestCrashInGrow(t *testing.T) { // P5.3
 
 func TestCrashBehindDrop(t *testing.T) { // P5.2
 	start := laid(t, 99)
-	whenever(t, drop([]string{"a", "y", "tmp", "z"}, api.OK), start, func(code api.Errno, l []string) {
+	trial.Whenever(t, start, drop([]string{"a", "y", "tmp", "z"}, api.OK).call, func(code api.Errno, d *disk.Disk) {
+		l := trial.Files(d)
 		if x, has := one(l, "x"); !has || !strings.HasPrefix(x, "x1") {
 			t.Errorf("error %d, then %q", code, l)
 		}

@@ -4,6 +4,7 @@ import (
 	"bytes"
 	"math/bits"
 	"slices"
+	"strconv"
 	"testing"
 
 	"creel/api"
@@ -114,5 +115,127 @@ func TestFiles(t *testing.T) {
 	trial.Tells(t, "one more", d.Sync("a"), api.ErrDown)
 	if l := trial.Files(d); len(l) != 0 {
 		t.Errorf("%q of one that is down", l)
+	}
+}
+
+// pair is two disks that are the same, each with the file a, of two bytes, one of which is kept.
+func pair(t *testing.T) (*disk.Disk, *disk.Disk) {
+	t.Helper()
+	d := disk.New(9)
+	trial.Done(t, d.Create("a"), d.SyncNames(), d.Append("a", []byte("1")), d.Sync("a"), d.Append("a", []byte("2")))
+	return d, d.Clone()
+}
+
+func TestBehind(t *testing.T) {
+	d, same := pair(t)
+	if l := trial.Files(trial.Behind(d, api.Wreck{})); !slices.Equal(l, []string{"a", "1"}) {
+		t.Errorf("%q", l)
+	}
+	if l := trial.Files(trial.Behind(d, api.Wreck{Bytes: []int{1}})); !slices.Equal(l, []string{"a", "12"}) {
+		t.Errorf("%q", l)
+	}
+	trial.Same(t, "behind that", d, same)
+}
+
+func TestSame(t *testing.T) {
+	var x told
+	a, b := pair(t)
+	trial.Same(&x, "the same", a, b)
+	trial.Done(t, a.Doom(3), b.Doom(3))
+	trial.Same(&x, "the same, doomed", a, b)
+	trial.Done(t, a.Doom(0), b.Doom(0))
+	trial.Tells(t, "one more", a.Sync("a"), api.ErrDown)
+	trial.Same(&x, "one that is down, and one that will be", a, b)
+	if x != (told{}) {
+		t.Errorf("%v of what is the same", x)
+	}
+	for i, change := range []func(d *disk.Disk) api.Errno{
+		func(d *disk.Disk) api.Errno { return d.Sync("a") },
+		func(d *disk.Disk) api.Errno { return d.Create("b") },
+		func(d *disk.Disk) api.Errno { return d.Append("a", []byte("3")) },
+		func(d *disk.Disk) api.Errno { return d.Rename("a", "b") },
+		func(d *disk.Disk) api.Errno { return d.Remove("a") },
+		func(d *disk.Disk) api.Errno { return d.SyncNames() },
+		func(d *disk.Disk) api.Errno { return d.Doom(3) },
+		func(d *disk.Disk) api.Errno { return d.Crash(api.Wreck{}) },
+	} {
+		a, b := pair(t)
+		trial.Done(t, a.Create("c"), b.Create("c"), change(a))
+		x = told{}
+		trial.Same(&x, "another", a, b)
+		if x.wrong == 0 || x.ends != 0 {
+			t.Errorf("change %d: %v", i, x)
+		}
+	}
+	used, more := disk.New(9), disk.New(9) // a file that has a kept name alone is to be seen by Used, too
+	trial.Done(t, used.Create("a"), more.Create("a"), more.Append("a", []byte("1")), used.Remove("a"), more.Remove("a"))
+	x = told{}
+	trial.Same(&x, "more that is used", more, used)
+	if x.wrong == 0 {
+		t.Error("more that is used is the same")
+	}
+}
+
+// making is a call that makes files, one behind the other, till one tells an error.
+func making(names ...string) func(d *disk.Disk) api.Errno {
+	return func(d *disk.Disk) api.Errno {
+		for _, name := range names {
+			if code := d.Create(name); code != api.OK {
+				return code
+			}
+		}
+		return api.OK
+	}
+}
+
+func TestAlike(t *testing.T) {
+	start, same := pair(t)
+	var x told
+	for _, names := range [][]string{nil, {"b"}, {"b", "c"}, {"b", "a", "c"}, {"b", "c", "d", "e", "f", "g", "h", "i", "j", "k", "l", "m"}} {
+		trial.Alike(&x, "the same", start, making(names...), making(names...))
+	}
+	if x != (told{}) {
+		t.Errorf("%v of what is the same", x)
+	}
+	for i, c := range [][2]func(d *disk.Disk) api.Errno{
+		{making("b"), making("c")}, {making("b", "c"), making("c", "b")}, {making(), making("b")}, {making("b", "a"), making("b")},
+		{making("b"), func(d *disk.Disk) api.Errno { d.Create("b"); return api.OK }},
+		{making("b"), func(d *disk.Disk) api.Errno { d.Names(); return d.Create("b") }},
+		{making("b"), func(d *disk.Disk) api.Errno { code := d.Create("b"); d.Names(); return code }},
+		{making("b"), func(d *disk.Disk) api.Errno { d.Create("b"); d.Remove("b"); return d.Create("b") }},
+		{making(), func(*disk.Disk) api.Errno { return api.ErrArg }},
+	} {
+		for _, c := range [][2]func(d *disk.Disk) api.Errno{c, {c[1], c[0]}} {
+			x = told{}
+			trial.Alike(&x, "another", start, c[0], c[1])
+			if x.wrong == 0 || x.ends != 0 {
+				t.Errorf("pair %d: %v", i, x)
+			}
+		}
+	}
+	trial.Same(t, "behind that", start, same)
+}
+
+func TestWhenever(t *testing.T) {
+	start, same := pair(t)
+	var x told
+	var l []string
+	trial.Whenever(&x, start, func(d *disk.Disk) api.Errno {
+		d.Append("a", []byte("3"))
+		return d.Sync("a")
+	}, func(code api.Errno, d *disk.Disk) {
+		l = append(l, strconv.Itoa(int(code))+" "+trial.Files(d)[1])
+	})
+	if len(l) != 3*len(trial.Crashes()) || x != (told{}) {
+		t.Errorf("%v, and %q", x, l)
+	}
+	slices.Sort(l)
+	if l = slices.Compact(l); !slices.Equal(l, []string{"0 123", "40 1", "40 12", "40 123"}) {
+		t.Errorf("%q", l)
+	}
+	trial.Same(t, "behind that", start, same)
+	trial.Whenever(&x, disk.New(0), func(*disk.Disk) api.Errno { return api.ErrArg }, func(api.Errno, *disk.Disk) {})
+	if x != (told{wrong: 1}) {
+		t.Errorf("%v of what never tells OK", x)
 	}
 }
