@@ -70,21 +70,6 @@ func splitWords(l api.Line) []api.Line {
 	return words
 }
 
-// texts are all of up to so many of some bytes.
-func texts(some string, size int) [][]byte {
-	all := [][]byte{nil}
-	for from := 0; size > 0; size-- {
-		till := len(all)
-		for _, b := range all[from:till] {
-			for k := range len(some) {
-				all = append(all, append(bytes.Clone(b), some[k]))
-			}
-		}
-		from = till
-	}
-	return all
-}
-
 func TestAll(t *testing.T) { // P7.1
 	for text, want := range map[string][]api.Line{
 		"":                   nil,
@@ -125,7 +110,7 @@ func TestAllOfTheExample(t *testing.T) {
 }
 
 func TestAllOfShortTexts(t *testing.T) { // P7.1, for all that a few bytes may be
-	for _, b := range texts("a\n\r ", 7) {
+	for _, b := range trial.Texts("a\n\r ", 7) {
 		if got, want := lines(t, line.All(b)), splitLines(b); !same(got, want) {
 			t.Fatalf("%q:%s; want%s", b, shown(got), shown(want))
 		}
@@ -142,7 +127,7 @@ func TestAllOfLongTexts(t *testing.T) { // P7.1
 }
 
 func TestLinesStandApart(t *testing.T) { // P7.3
-	for _, b := range append(texts("a\n\r ", 6), trial.Mixed(5000)) {
+	for _, b := range append(trial.Texts("a\n\r ", 6), trial.Mixed(5000)) {
 		behind := 0
 		for i, l := range line.All(b) {
 			if l.At < behind || l.At+len(l.B) > len(b) || !bytes.Equal(l.B, b[l.At:l.At+len(l.B)]) {
@@ -229,7 +214,7 @@ func moved(l []api.Line, by int) []api.Line {
 }
 
 func TestWordsOfShortLines(t *testing.T) { // P7.2, for all that a few bytes may be
-	for _, b := range texts("a# \t\r", 6) {
+	for _, b := range trial.Texts("a# \t\r", 6) {
 		l := api.Line{At: 9, B: b}
 		if got, want := line.Words(l), splitWords(l); !same(got, want) {
 			t.Fatalf("%q:%s; want%s", b, shown(got), shown(want))
@@ -277,7 +262,7 @@ func TestBare(t *testing.T) { // P7.2
 			t.Errorf("byte %d is bare: %t", c, got)
 		}
 	}
-	for _, b := range texts("a# \t\r", 6) {
+	for _, b := range trial.Texts("a# \t\r", 6) {
 		words := splitWords(api.Line{B: b})
 		if got, want := line.Bare(api.Line{B: b}), len(words) == 0 || words[0].B[0] == '#'; got != want {
 			t.Fatalf("%q is bare: %t", b, got)
@@ -292,7 +277,7 @@ func ahead(b []byte) ([]byte, []byte) {
 }
 
 func TestWhatIsHandedInStays(t *testing.T) { // rule 4
-	for _, b := range texts("a\n\r# ", 4) {
+	for _, b := range trial.Texts("a\n\r# ", 4) {
 		text, room := ahead(b)
 		was := bytes.Clone(room)
 		got, words := lines(t, line.All(text)), line.Words(api.Line{B: text})

@@ -21,6 +21,21 @@ func Mixed(n int) []byte {
 	return b
 }
 
+// Texts is all texts of up to so many of some bytes, the shorter ones ahead.
+func Texts(some string, size int) [][]byte {
+	all := [][]byte{nil}
+	for from := 0; size > 0; size-- {
+		till := len(all)
+		for _, b := range all[from:till] {
+			for k := range len(some) {
+				all = append(all, append(bytes.Clone(b), some[k]))
+			}
+		}
+		from = till
+	}
+	return all
+}
+
 // Patterns is bits within Burst side by side, the lowest of which is turned: of every length all, the ends, and so many that look like none in particular.
 func Patterns(some int) []uint32 {
 	l := []uint32{1}

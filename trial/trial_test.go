@@ -24,6 +24,21 @@ func TestMixed(t *testing.T) {
 	}
 }
 
+func TestTexts(t *testing.T) {
+	for _, x := range []struct {
+		some string
+		size int
+		want string
+	}{{"ab", -1, ""}, {"ab", 0, ""}, {"", 3, ""}, {"ab", 1, " a b"}, {"ab", 2, " a b aa ab ba bb"}, {"x", 3, " x xx xxx"}} {
+		if got := string(bytes.Join(trial.Texts(x.some, x.size), []byte{' '})); got != x.want {
+			t.Errorf("up to %d of %q: %q, want %q", x.size, x.some, got, x.want)
+		}
+	}
+	if l := trial.Texts("\x00\xff9", 4); len(l) != 1+3+9+27+81 || !bytes.Equal(l[len(l)-1], []byte("9999")) {
+		t.Errorf("%d texts of up to four of three bytes", len(l))
+	}
+}
+
 func TestPatterns(t *testing.T) {
 	for _, some := range []int{0, 1, 5} {
 		many := make([]int, api.Burst+1) // by length
