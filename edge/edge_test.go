@@ -143,19 +143,11 @@ func TestTextOfNoLabels(t *testing.T) { // P8.1, numeric: no word has such a lab
 	tells(t, "Text", edge.Text, []byte("1234"), true, "825373492", true) // any four bytes are one
 }
 
-// item is an item as it is told of in a test that fails.
-func item(x api.Item) string {
-	return strconv.FormatBool(x.Two) + " " + strconv.Quote(string(x.A)) + " " + strconv.Quote(string(x.B)) + " code " + strconv.Itoa(int(x.Code)) + " at " + strconv.Itoa(x.At)
-}
-
-// two is the item of an edge.
-func two(a, b string) api.Item { return api.Item{Two: true, A: []byte(a), B: []byte(b)} }
-
 // parses fails the test, if a line is another item.
 func parses(t *testing.T, at int, s string, numeric bool, want api.Item) {
 	t.Helper()
-	if got := edge.Parse(api.Line{At: at, B: []byte(s)}, numeric); item(got) != item(want) {
-		t.Errorf("%q at %d, numeric %t: %s; want %s", s, at, numeric, item(got), item(want))
+	if got := edge.Parse(api.Line{At: at, B: []byte(s)}, numeric); trial.Shown(got) != trial.Shown(want) {
+		t.Errorf("%q at %d, numeric %t: %s; want %s", s, at, numeric, trial.Shown(got), trial.Shown(want))
 	}
 }
 
@@ -163,13 +155,13 @@ func TestParse(t *testing.T) { // P8.2
 	long := strings.Repeat("x", api.MaxLabel)
 	for _, at := range []int{0, 10, -5, 1 << 40} {
 		for s, want := range map[string]api.Item{
-			"a b": two("a", "b"), " a\tb ": two("a", "b"), "\t \tab  \t cd\t": two("ab", "cd"), "b a": two("b", "a"), "a a": two("a", "a"), "# b": two("#", "b"),
-			"#a #": two("#a", "#"), "1 01": two("1", "01"), "a\r b\n": two("a\r", "b\n"), "\x00 \xff": two("\x00", "\xff"), long + " a": two(long, "a"), "a " + long: two("a", long),
+			"a b": trial.Edge("a", "b"), " a\tb ": trial.Edge("a", "b"), "\t \tab  \t cd\t": trial.Edge("ab", "cd"), "b a": trial.Edge("b", "a"), "a a": trial.Edge("a", "a"), "# b": trial.Edge("#", "b"),
+			"#a #": trial.Edge("#a", "#"), "1 01": trial.Edge("1", "01"), "a\r b\n": trial.Edge("a\r", "b\n"), "\x00 \xff": trial.Edge("\x00", "\xff"), long + " a": trial.Edge(long, "a"), "a " + long: trial.Edge("a", long),
 		} {
 			parses(t, at, s, false, want)
 		}
 		for s, want := range map[string]api.Item{
-			"1 22": two("\x00\x00\x00\x01", "\x00\x00\x00\x16"), " 4294967295\t0 ": two("\xff\xff\xff\xff", "\x00\x00\x00\x00"), "258 258": two("\x00\x00\x01\x02", "\x00\x00\x01\x02"),
+			"1 22": trial.Edge("\x00\x00\x00\x01", "\x00\x00\x00\x16"), " 4294967295\t0 ": trial.Edge("\xff\xff\xff\xff", "\x00\x00\x00\x00"), "258 258": trial.Edge("\x00\x00\x01\x02", "\x00\x00\x01\x02"),
 		} {
 			parses(t, at, s, true, want)
 		}
@@ -204,7 +196,7 @@ func TestParseOfShortLines(t *testing.T) { // P8.2, for all that a few bytes may
 		want := api.Item{Code: api.ErrWords, At: 7}
 		plain := want
 		if len(words) == 2 {
-			plain = two(words[0], words[1])
+			plain = trial.Edge(words[0], words[1])
 			first := strings.Index(string(b), words[0])
 			second := first + len(words[0])
 			second += strings.Index(string(b[second:]), words[1])
@@ -216,7 +208,7 @@ func TestParseOfShortLines(t *testing.T) { // P8.2, for all that a few bytes may
 			case !ok1:
 				want = api.Item{Code: api.ErrLabel, At: 7 + second}
 			default:
-				want = two(l0, l1)
+				want = trial.Edge(l0, l1)
 			}
 		}
 		parses(t, 7, string(b), false, plain)
@@ -226,15 +218,15 @@ func TestParseOfShortLines(t *testing.T) { // P8.2, for all that a few bytes may
 
 func TestParseAtTheEnds(t *testing.T) { // rule 1: a line may be said to be anywhere
 	for _, at := range []int{math.MinInt, math.MaxInt, -1} {
-		parses(t, at, "a b", false, two("a", "b"))
+		parses(t, at, "a b", false, trial.Edge("a", "b"))
 		parses(t, at, "a", false, api.Item{Code: api.ErrWords, At: at})
 		parses(t, at, "x 1", true, api.Item{Code: api.ErrLabel, At: at})
 		if got := edge.Parse(api.Line{At: at, B: []byte("1 x")}, true); got.Code != api.ErrLabel || got.Two || len(got.A)+len(got.B) > 0 {
-			t.Errorf("1 x at %d: %s", at, item(got))
+			t.Errorf("1 x at %d: %s", at, trial.Shown(got))
 		}
 	}
-	if got := edge.Parse(api.Line{}, false); item(got) != item(api.Item{Code: api.ErrWords}) {
-		t.Errorf("no line: %s", item(got))
+	if got := edge.Parse(api.Line{}, false); trial.Shown(got) != trial.Shown(api.Item{Code: api.ErrWords}) {
+		t.Errorf("no line: %s", trial.Shown(got))
 	}
 }
 
@@ -279,35 +271,21 @@ func TestWhatTextTellsIsTaken(t *testing.T) { // P8.3
 	}
 }
 
-// ahead are bytes that others stand behind, in the room that they have.
-func ahead(s string) (front, room []byte) {
-	room = append([]byte(s), "7 z1 8"...)
-	return room[:len(s)], room
-}
-
-// filled lays a byte wherever bytes have room.
-func filled(b []byte) {
-	room := b[:cap(b)]
-	for k := range room {
-		room[k] = '!'
-	}
-}
-
 func TestWhatIsHandedInStays(t *testing.T) { // rules 4 and 5, of Label and Text
 	for what, f := range map[string]call{"Label": edge.Label, "Text": edge.Text} {
 		for _, numeric := range []bool{false, true} {
 			for _, s := range []string{"", "1", "12", "1234", "429496729", "4294967295", "01", "abcd", strings.Repeat("1", api.MaxLabel), strings.Repeat("1", api.MaxLabel+1)} {
-				b, room := ahead(s)
+				b, room := trial.Ahead([]byte(s), []byte("7 z1 8"))
 				was := bytes.Clone(room)
 				want, ok := f([]byte(s), numeric)
 				tells(t, what, f, b, numeric, string(want), ok)
 				one, _ := f(b, numeric)
 				other, _ := f(b, numeric)
-				filled(one)
+				trial.Fill(one)
 				if !bytes.Equal(room, was) || !bytes.Equal(other, want) {
 					t.Errorf("%s of %q, numeric %t: the answer shares memory", what, s, numeric)
 				}
-				filled(b)
+				trial.Fill(b)
 				if !bytes.Equal(other, want) {
 					t.Errorf("%s of %q, numeric %t: what was handed in is kept", what, s, numeric)
 				}
@@ -319,24 +297,24 @@ func TestWhatIsHandedInStays(t *testing.T) { // rules 4 and 5, of Label and Text
 func TestLinesThatAreHandedInStay(t *testing.T) { // rules 4 and 5, of Parse
 	for _, numeric := range []bool{false, true} {
 		for _, s := range []string{"", "1", "1 2", "1 1", " 10\t20 ", "1 x", "x 1", "1 2 3", "1 2 "} {
-			b, room := ahead(s)
+			b, room := trial.Ahead([]byte(s), []byte("7 z1 8"))
 			was := bytes.Clone(room)
 			want := edge.Parse(api.Line{At: 3, B: []byte(s)}, numeric)
 			one := edge.Parse(api.Line{At: 3, B: b}, numeric)
 			other := edge.Parse(api.Line{At: 3, B: b}, numeric)
-			if item(one) != item(want) {
-				t.Errorf("%q: %s; want %s: what is behind it was read", s, item(one), item(want))
+			if trial.Shown(one) != trial.Shown(want) {
+				t.Errorf("%q: %s; want %s: what is behind it was read", s, trial.Shown(one), trial.Shown(want))
 			}
-			filled(one.A)
+			trial.Fill(one.A)
 			if !bytes.Equal(one.B, want.B) {
 				t.Errorf("%q: both labels share memory", s)
 			}
-			filled(one.B)
-			if !bytes.Equal(room, was) || item(other) != item(want) {
+			trial.Fill(one.B)
+			if !bytes.Equal(room, was) || trial.Shown(other) != trial.Shown(want) {
 				t.Errorf("%q: the answer shares memory", s)
 			}
-			filled(b)
-			if item(other) != item(want) {
+			trial.Fill(b)
+			if trial.Shown(other) != trial.Shown(want) {
 				t.Errorf("%q: what was handed in is kept", s)
 			}
 		}
